@@ -178,6 +178,9 @@ func TestEndless(t *testing.T) {
 	body[0].Body = match(unit())
 	body[0].Body.Arms = body
 	for _, e := range exprs(l[0], body[0].Body) {
+		if syntax.Same(e, e) && syntax.Same(e, unit()) {
+			t.Errorf("Same of what has no end")
+		}
 		wantCheck(t, "endless", e, api.ErrSize)
 		if x, err := syntax.Whole(api.Program{Defs: []api.Def{{Name: "a", Body: e}}, Main: unit()}); err != api.ErrSize || !syntax.Same(x, api.Expr{}) {
 			t.Errorf("Whole = %d", err)
@@ -186,6 +189,9 @@ func TestEndless(t *testing.T) {
 	x := []api.Type{data("A")}
 	x[0].L = x
 	p := api.Program{Data: []api.Data{{Name: "A", Cons: []api.Cons{{Name: "C", Args: x}}}}, Main: unit()}
+	if syntax.SameType(x[0], x[0]) && syntax.SameType(x[0], tint) {
+		t.Errorf("SameType of what has no end")
+	}
 	if syntax.CheckType(x[0]) != api.ErrSize || syntax.CheckProgram(p) != api.ErrSize {
 		t.Errorf("CheckType = %d, CheckProgram = %d", syntax.CheckType(x[0]), syntax.CheckProgram(p))
 	}
