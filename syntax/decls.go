@@ -5,6 +5,7 @@ import (
 
 	"reprise/api"
 	"reprise/lexer"
+	"reprise/trees"
 )
 
 // builtInType returns the kind of a built-in type, and whether a name is that of one.
@@ -49,7 +50,7 @@ func checkTypeNode(t api.Type) api.Errno {
 
 // checkRow returns the first error of the row of a function type.
 func checkRow(r api.Row) api.Errno {
-	if e := firstError(slices.All(r.Labels), checkLabel); e != api.OK {
+	if e := trees.FirstError(slices.All(r.Labels), checkLabel); e != api.OK {
 		return e
 	}
 	if r.Tail < -1 || r.Tail > api.MaxInt {
@@ -74,7 +75,7 @@ func checkDeclared(t api.Type) api.Errno {
 	if e := CheckType(t); e != api.OK {
 		return e
 	}
-	return firstError(nodes(t, typeParts), checkClosed)
+	return trees.FirstError(trees.Nodes(t, trees.TypeParts), checkClosed)
 }
 
 // checkClosed returns the error of a type's node that may not stand in a declaration.
@@ -97,7 +98,7 @@ func checkData(d api.Data) api.Errno {
 	if e := checkNames(d.Params, varName); e != api.OK {
 		return e
 	}
-	return firstError(slices.All(d.Cons), checkCons)
+	return trees.FirstError(slices.All(d.Cons), checkCons)
 }
 
 // checkCons returns the first error of a constructor.
@@ -108,7 +109,7 @@ func checkCons(c api.Cons) api.Errno {
 	case !lexer.IsUpper(c.Name):
 		return api.ErrName
 	}
-	return firstError(slices.All(c.Args), checkDeclared)
+	return trees.FirstError(slices.All(c.Args), checkDeclared)
 }
 
 // checkEffect returns the first error of an effect.
@@ -119,7 +120,7 @@ func checkEffect(f api.Effect) api.Errno {
 	case !lexer.IsUpper(f.Name):
 		return api.ErrName
 	}
-	return firstError(slices.All(f.Ops), checkOp)
+	return trees.FirstError(slices.All(f.Ops), checkOp)
 }
 
 // checkOp returns the first error of an operation.
