@@ -1,6 +1,9 @@
 package infer
 
-import "reprise/api"
+import (
+	"reprise/api"
+	"reprise/trees"
+)
 
 // rule types a node at a place.
 type rule func(x api.Expr, at place) *node
@@ -17,22 +20,6 @@ func (c *checker) rules() map[api.Kind]rule {
 
 // expr returns the type of an expression.
 func (c *checker) expr(x api.Expr, at place) *node { return c.byKind[x.Kind](x, at) }
-
-// isValue reports whether an expression is a value, whose type is generalized.
-func isValue(x api.Expr) bool {
-	switch x.Kind {
-	case api.Con:
-		for _, part := range x.L {
-			if !isValue(part) {
-				return false
-			}
-		}
-		fallthrough
-	case api.Var, api.Int, api.Bool, api.Unit, api.Fun:
-		return true
-	}
-	return false
-}
 
 // variable types a Var, whose type has new variables in place of the general ones.
 func (c *checker) variable(x api.Expr, at place) *node {
@@ -74,7 +61,7 @@ func (c *checker) application(x api.Expr, at place) *node {
 // defined returns the binding of a name to an expression, and the type of the expression itself, whose variables are not replaced where it is told.
 func (c *checker) defined(name string, x api.Expr, at place) (binding, *node) {
 	t := c.expr(x, at)
-	if isValue(x) {
+	if trees.IsValue(x) {
 		return c.generalize(name, t, at.env), t
 	}
 	return binding{name: name, of: t}, t

@@ -92,6 +92,69 @@ func TestClone(t *testing.T) {
 	}
 }
 
+// program is the text of a program with all that programs have.
+const program = "data A a { B a (A (A a)); C (Int -> <E, IO> A a) } effect E { ask : Unit -> A (Int -> <E> Int); once tell : (Int -> <E> Int) -> Unit } def f = fun x -> x main " + text
+
+// A copy of a program is equal, and none of its lists lies where one of the program does.
+func TestCloneProgram(t *testing.T) {
+	p, at, err := syntax.Parse(program)
+	if err != api.OK {
+		t.Fatalf("Parse = %d, %d", at, err)
+	}
+	c := trees.CloneProgram(p)
+	if !reflect.DeepEqual(c, p) {
+		t.Fatalf("%v", c)
+	}
+	lists := listsOf(reflect.ValueOf(p))
+	for at := range listsOf(reflect.ValueOf(c)) {
+		if lists[at] {
+			t.Error("memory is shared")
+		}
+	}
+	x, _, _ := syntax.ParseType("A (Int -> <E, F | r1> A t0)")
+	y := trees.CloneType(x)
+	y.L[0].L[0].N, y.L[0].Row.Labels[1].N, y.L[0].L[1].L[0].N = 1, 2, 3
+	if again, _, _ := syntax.ParseType("A (Int -> <E, F | r1> A t0)"); !reflect.DeepEqual(x, again) || reflect.DeepEqual(x, y) {
+		t.Errorf("%v; %v", x, y)
+	}
+}
+
+// listsOf returns where the lists within a value lie.
+func listsOf(x reflect.Value) map[uintptr]bool {
+	out := map[uintptr]bool{}
+	var look func(x reflect.Value)
+	look = func(x reflect.Value) {
+		switch x.Kind() {
+		case reflect.Slice:
+			for i := range x.Len() {
+				out[x.Pointer()] = true
+				look(x.Index(i))
+			}
+		case reflect.Struct:
+			for i := range x.NumField() {
+				look(x.Field(i))
+			}
+		}
+	}
+	look(x)
+	return out
+}
+
+// A value is what layer 6 generalizes: a constructor is one if all of its arguments are.
+func TestIsValue(t *testing.T) {
+	for want, texts := range map[bool][]string{
+		true:  {"x", "1", "true", "()", "fun x -> f x", "A", "A[1, x, fun y -> f y]", "A[B[1], C[D[()]]]"},
+		false: {"f x", "let x = 1 in x", "rec f x = x in f", "if true then 1 else 2", "1 + 2", "match x { }", "do op 1", "h.op 1", "handle E 1 { return x -> x }", "named h E 1 { return x -> x }", "mask E 1", "using x [] = 1 close f in x", "resume k 1", "drop k", "A[1, f x]", "A[B[1], C[D[f x]]]"},
+	} {
+		for _, text := range texts {
+			x, at, err := syntax.ParseExpr(text)
+			if err != api.OK || trees.IsValue(x) != want {
+				t.Errorf("%s: %t; %d, %d", text, trees.IsValue(x), at, err)
+			}
+		}
+	}
+}
+
 // spoil changes all that the lists of a tree hold.
 func spoil(e *api.Expr) {
 	for i := range e.Names {
